@@ -94,16 +94,63 @@ func TestRowsNew(t *testing.T) {
 	}
 }
 
+// timesHeld says how many of the keys hold v.
+func timesHeld(held []int, v int) int {
+	n := 0
+	for _, h := range held[:min(len(held), 4)] {
+		if h == v {
+			n++
+		}
+	}
+	return n
+}
+
+// checkFound says whether KeyOf answers the key of what is held once, and -1 of what no key holds. Nought, and what several keys hold, it does not ask.
+func checkFound(t *testing.T, r impl.Rows, v int) {
+	t.Helper()
+	want := slices.Index(r.Held, v)
+	switch n := timesHeld(r.Held, v); {
+	case v == 0 || n > 1:
+		return
+	case n == 0:
+		want = -1
+	}
+	if got := impl.KeyOf(r, v); got != want {
+		t.Fatalf("KeyOf(%v, %d) = %d, want %d", r, v, got, want)
+	}
+}
+
 func TestWhatIsHeldOnceIsFound(t *testing.T) {
 	for _, held := range everyHeld() {
-		if !holdsOk(held) {
-			continue
+		for v := -2; v <= 8; v++ {
+			checkFound(t, impl.Rows{Held: held, State: 2}, v)
 		}
-		r := impl.Rows{Held: held, State: 2}
-		for v := 1; v <= 6; v++ {
-			if got, want := impl.KeyOf(r, v), slices.Index(held, v); got != want {
-				t.Fatalf("KeyOf(%v, %d) = %d, want %d", held, v, got, want)
+	}
+}
+
+// What is held is found whatever it is, also what is not ValOk, in the rows of fewer keys and beside a State that is none.
+func TestWhatIsHeldOnceIsFoundWhateverItIs(t *testing.T) {
+	for _, v := range outside(1, 6) {
+		for k := range 4 {
+			held := []int{1, 2, 3, 4}
+			held[k] = v
+			for _, state := range []int{0, 5, -1, 6, math.MinInt, math.MaxInt} {
+				checkFound(t, impl.Rows{Held: held, State: state}, v)
+				checkFound(t, impl.Rows{Held: held[:k+1], State: state}, v)
 			}
+		}
+	}
+}
+
+func TestKeyOfWhatNoKeyHolds(t *testing.T) {
+	for _, r := range append(wrongRows(), impl.RowsNew(), rowsOf(0, 1, 2, 3, 0), rowsOf(5, 1, 2, 3, 4)) {
+		for _, v := range append(outside(1, 6), 1, 2, 3, 4, 5, 6) {
+			if timesHeld(r.Held, v) == 0 {
+				checkFound(t, r, v)
+			}
+		}
+		if got := impl.KeyOf(r, 0); got != -1 {
+			t.Errorf("KeyOf(%v, 0) = %d, want -1: nought is no row", r, got)
 		}
 	}
 }
@@ -117,17 +164,7 @@ func TestKeyOfEnds(t *testing.T) {
 	}
 }
 
-func TestKeyOfWhatNoRowCanHold(t *testing.T) {
-	for _, r := range append(wrongRows(), impl.RowsNew(), rowsOf(0, 1, 2, 3, 0), rowsOf(5, 1, 2, 3, 4)) {
-		for _, v := range outside(1, 6) {
-			if got := impl.KeyOf(r, v); got != -1 {
-				t.Fatalf("KeyOf(%v, %d) = %d, want -1", r, v, got)
-			}
-		}
-	}
-}
-
-// The document asks for RowsOk of WordsOf alone: of other rows the first of the keys that hold v is told, and what stands behind the last key is no key's.
+// The document asks for RowsOk of WordsOf alone: of several keys that hold v the first is told where a row can hold v, else -1, and what stands behind the last key is no key's.
 func TestKeyOfOtherRows(t *testing.T) {
 	for _, c := range []struct {
 		r       impl.Rows
@@ -142,8 +179,17 @@ func TestKeyOfOtherRows(t *testing.T) {
 		{rowsOf(0, 0, 2, 0, 2), 2, 1},
 		{rowsOf(0, 3, 3, 3, 3), 3, 0},
 		{rowsOf(0, 7, -1, 5, 0), 5, 2},
+		{rowsOf(0, 7, -1, 5, 0), 7, 0},
+		{rowsOf(0, 7, -1, 5, 0), -1, 1},
+		{rowsOf(0, 7, -1, 5, 0), 8, -1},
+		{rowsOf(0, 1, 7), 7, 1},
+		{rowsOf(0, 0, 7, 7, 0), 7, -1},
+		{rowsOf(0, 1, 2, 3, math.MaxInt), math.MaxInt, 3},
+		{rowsOf(0, math.MinInt, 2, 3, 4), math.MinInt, 0},
 		{rowsOf(0, 1, 2, 3, 4, 5), 4, 3},
 		{rowsOf(0, 1, 2, 3, 4, 5), 5, -1},
+		{rowsOf(0, 1, 2, 3, 4, 7), 7, -1},
+		{rowsOf(0, 1, 2, 7, 4, 7), 7, 2},
 	} {
 		if got := impl.KeyOf(c.r, c.v); got != c.want {
 			t.Errorf("KeyOf(%v, %d) = %d, want %d", c.r, c.v, got, c.want)
