@@ -174,7 +174,31 @@ func needOfSet(o impl.Op, words []int) []int {
 	return list
 }
 
-// newTold answers by the document's words what becomes of the word at a place that o needs.
+// ofOpTold answers by the document's words the places of all words of o where the words are these, ascending, needed or not.
+func ofOpTold(o impl.Op, words []int) []int {
+	if o.Kind > 3 {
+		return slices.Sorted(slices.Values(needTold(o, words)))
+	}
+	held, list := words[o.K], []int{o.K, 13}
+	before := o.Kind != 1 && held >= 1 && held <= 6
+	unlike := o.Kind != 2 || !before || held%3 != o.V%3
+	if before {
+		list = append(list, 3+held, 13+held)
+	}
+	if before && unlike {
+		list = append(list, 10+held%3)
+	}
+	if o.Kind != 3 {
+		list = append(list, 3+o.V, 13+o.V)
+	}
+	if o.Kind != 3 && unlike {
+		list = append(list, 10+o.V%3)
+	}
+	slices.Sort(list)
+	return list
+}
+
+// newTold answers by the document's words what becomes of the word at a place that is one of o.
 func newTold(o impl.Op, words []int, at int) int {
 	n := words[at]
 	ofV := at == 3+o.V || at == 10+o.V%3 || at == 13+o.V
@@ -229,8 +253,13 @@ func nowTold(o impl.Op, words []int) (impl.Res, bool) {
 	return impl.Res{}, false
 }
 
-// planTold answers by the document's words the plan of o, which is OpOk, where the words are these.
+// planTold answers by the document's words the plan of o, which is OpOk, where the words are these and just those were read that o needs.
 func planTold(o impl.Op, words []int) impl.Plan {
+	return planOfRead(o, words, needTold(o, words))
+}
+
+// planOfRead is planTold where the words at these places were read, all that o needs among them.
+func planOfRead(o impl.Op, words []int, places []int) impl.Plan {
 	if s, now := nowTold(o, words); now {
 		return impl.Plan{Now: true, Res: s}
 	}
@@ -243,8 +272,10 @@ func planTold(o impl.Op, words []int) impl.Plan {
 	case o.Kind == 10:
 		p.Res = resOf(0, words[13+o.V]-1)
 	}
-	for _, at := range slices.Sorted(slices.Values(needTold(o, words))) {
-		p.List = append(p.List, impl.Entry{At: at, Old: words[at], New: newTold(o, words, at)})
+	for _, at := range ofOpTold(o, words) {
+		if slices.Contains(places, at) {
+			p.List = append(p.List, impl.Entry{At: at, Old: words[at], New: newTold(o, words, at)})
+		}
 	}
 	return p
 }
@@ -540,14 +571,22 @@ func TestNextIsTheFirstThatIsMissing(t *testing.T) {
 	})
 }
 
-// checkReads asks that the same is planned by got as by the words that o needs.
-func checkReads(t *testing.T, o impl.Op, got []impl.Pair, words []int) {
+// checkReads asks that nothing more must be known than got, and that all of it is planned with, as it was read last.
+func checkReads(t *testing.T, o impl.Op, got []impl.Pair) {
 	t.Helper()
 	if at := impl.Next(o, got); at != -1 {
 		t.Fatalf("Next(%v, %v) = %d, want -1", o, got, at)
 	}
-	if p, ok := impl.PlanOf(o, got); !ok || !planSame(p, planTold(o, words)) {
-		t.Fatalf("PlanOf(%v, %v) = %v, %v, want %v", o, got, p, ok, planTold(o, words))
+	words, places := make([]int, 20), []int{}
+	for _, p := range got {
+		if p.At >= 0 && p.At < 20 {
+			words[p.At] = p.N
+			places = append(places, p.At)
+		}
+	}
+	want := planOfRead(o, words, places)
+	if p, ok := impl.PlanOf(o, got); !ok || !planSame(p, want) {
+		t.Fatalf("PlanOf(%v, %v) = %v, %v, want %v", o, got, p, ok, want)
 	}
 }
 
@@ -556,23 +595,34 @@ func TestOrderOfReadingDoesNotCount(t *testing.T) {
 		places := needTold(o, words)
 		for range places {
 			places = append(slices.Clone(places[1:]), places[0])
-			checkReads(t, o, pairsAt(words, places...), words)
+			checkReads(t, o, pairsAt(words, places...))
 		}
 		slices.Reverse(places)
-		checkReads(t, o, pairsAt(words, places...), words)
+		checkReads(t, o, pairsAt(words, places...))
 	})
 }
 
-func TestWordsThatAreNotNeededDoNotCount(t *testing.T) {
-	none := pairsOf(-1, 1, -1, 0, 20, 3, math.MinInt, 2, math.MaxInt, 5, -2, 4, 255, 1, 1<<32, 6)
+// nowhere has pairs at places that are none.
+func nowhere() []impl.Pair {
+	return pairsOf(-1, 1, -1, 3, 20, 3, math.MinInt, 2, math.MaxInt, 5, -2, 4, 255, 1, 1<<32, 6)
+}
+
+func TestWordsThatAreNotOfTheOpDoNotCount(t *testing.T) {
+	none := nowhere()
 	somePlans(func(o impl.Op, words []int) {
 		places := needTold(o, words)
-		needed, all := pairsAt(words, places...), []impl.Pair{}
+		needed, others := pairsAt(words, places...), []impl.Pair{}
+		ofOp := ofOpTold(o, words)
 		for at, n := range words {
-			all = append(all, impl.Pair{At: at, N: n})
+			if !slices.Contains(ofOp, at) {
+				others = append(others, impl.Pair{At: at, N: n})
+			}
 		}
-		for _, got := range [][]impl.Pair{all, slices.Concat(none, needed), slices.Concat(needed, none), slices.Concat(none, all, none)} {
-			checkReads(t, o, got, words)
+		for _, got := range [][]impl.Pair{slices.Concat(needed, others), slices.Concat(none, others, needed), slices.Concat(needed, none)} {
+			checkReads(t, o, got)
+			if p, _ := impl.PlanOf(o, got); !planSame(p, planTold(o, words)) {
+				t.Fatalf("PlanOf(%v, %v) = %v, want %v", o, got, p, planTold(o, words))
+			}
 		}
 		for i, at := range places {
 			if next := impl.Next(o, slices.Concat(none, needed[:i], none)); next != at {
@@ -580,6 +630,88 @@ func TestWordsThatAreNotNeededDoNotCount(t *testing.T) {
 			}
 		}
 	})
+}
+
+// subsets goes through every choice of these places.
+func subsets(places []int, ask func(chosen []int)) {
+	for bits := range 1 << len(places) {
+		chosen := []int{}
+		for i, at := range places {
+			if bits>>i&1 == 1 {
+				chosen = append(chosen, at)
+			}
+		}
+		ask(chosen)
+	}
+}
+
+// A word of the op that was read is checked again, also where Next does not ask for it.
+func TestAllThatWasReadIsPlanned(t *testing.T) {
+	somePlans(func(o impl.Op, words []int) {
+		needed := needTold(o, words)
+		further := slices.DeleteFunc(ofOpTold(o, words), func(at int) bool { return slices.Contains(needed, at) })
+		subsets(further, func(chosen []int) {
+			for _, n := range []int{math.MinInt, -1, 0, 1, 5, math.MaxInt - 1} {
+				got := pairsAt(words, needed...)
+				for _, at := range chosen {
+					got = append(got, impl.Pair{At: at, N: n})
+				}
+				checkReads(t, o, got)
+				slices.Reverse(got)
+				checkReads(t, o, slices.Concat(nowhere(), got))
+			}
+		})
+	})
+}
+
+func TestAllThatWasReadIsPlannedOfEveryRows(t *testing.T) {
+	ops := everyOp()
+	for _, r := range everyRows() {
+		words := wordsTold(r.Held, r.State)
+		all := []impl.Pair{}
+		for at, n := range words {
+			all = append(all, impl.Pair{At: at, N: n})
+		}
+		for _, o := range ops {
+			checkReads(t, o, all)
+			if p, _ := impl.PlanOf(o, all); !impl.Allowed(r, o, p.Res) {
+				t.Fatalf("of %v in %v: %v is planned", o, r, p)
+			}
+		}
+	}
+}
+
+func TestPlanOfWhatNeedNotHaveBeenRead(t *testing.T) {
+	put, set, del, next := opOf(1, 1, 3), opOf(2, 0, 3), opOf(3, 2, 0), opOf(9, 0, 0)
+	for _, c := range []struct {
+		o    impl.Op
+		got  []impl.Pair
+		want impl.Plan
+	}{
+		{put, pairsOf(1, 0, 6, 0, 10, 0, 13, 2, 16, 4), thenOf(resOf(0), 1, 0, 3, 6, 0, 2, 10, 0, 1, 13, 2, 2, 16, 4, 2)},
+		{put, pairsOf(16, 0, 1, 0, 6, 0, 10, 0, 13, -1), thenOf(resOf(0), 1, 0, 3, 6, 0, 2, 10, 0, 1, 13, -1, -1, 16, 0, 2)},
+		{put, pairsOf(1, 0, 6, 0, 10, 0, 13, 2, 15, 4), thenOf(resOf(0), 1, 0, 3, 6, 0, 2, 10, 0, 1, 13, 2, 2)},
+		{put, pairsOf(1, 5, 6, 0, 10, 0, 13, 2, 16, 4), nowOf(1)},
+		{put, pairsOf(1, 0, 6, 2, 10, 0, 13, 2, 16, 4), nowOf(2)},
+		{set, pairsOf(0, 5, 6, 0, 8, 1, 12, 2, 10, 0, 13, 1, 16, 4), thenOf(resOf(0), 0, 5, 3, 6, 0, 1, 8, 1, 0, 10, 0, 1, 12, 2, 1, 13, 1, 1, 16, 4, 1)},
+		{set, pairsOf(0, 5, 6, 0, 8, 1, 12, 2, 10, 0, 13, 1, 18, 4), thenOf(resOf(0), 0, 5, 3, 6, 0, 1, 8, 1, 0, 10, 0, 1, 12, 2, 1, 13, 1, 1, 18, 4, 0)},
+		{set, pairsOf(0, 6, 6, 0, 9, 1, 10, 2, 13, 1, 19, 1, 16, 0), thenOf(resOf(0), 0, 6, 3, 6, 0, 1, 9, 1, 0, 13, 1, 1, 16, 0, 1, 19, 1, 0)},
+		{set, pairsOf(0, 7, 6, 0, 13, 1), thenOf(resOf(0), 0, 7, 3, 6, 0, 1, 13, 1, 1)},
+		{set, pairsOf(0, 7, 6, 0, 10, 2, 11, 2, 12, 2), thenOf(resOf(0), 0, 7, 3, 6, 0, 1, 10, 2, 3)},
+		{set, pairsOf(0, -1, 6, 0, 16, 2), thenOf(resOf(0), 0, -1, 3, 6, 0, 1, 16, 2, 1)},
+		{set, pairsOf(0, 7, 6, 0, 13, 5, 16, 2, -1, 8), thenOf(resOf(0), 0, 7, 3, 6, 0, 1, 13, 5, 5, 16, 2, 1)},
+		{set, pairsOf(0, 7, 6, 4, 13, 5, 16, 2), nowOf(2)},
+		{set, pairsOf(0, 0, 6, 0, 13, 5, 16, 2), nowOf(3)},
+		{del, pairsOf(2, 2, 5, 3, 12, 0, 13, 3, 15, 6), thenOf(resOf(0), 2, 2, 0, 5, 3, 0, 12, 0, 0, 13, 3, 3, 15, 6, 0)},
+		{del, pairsOf(2, 7, 13, 5, 4, 1, 10, 1, 14, 1, -1, 3), thenOf(resOf(0), 2, 7, 0, 13, 5, 5)},
+		{del, pairsOf(2, 0, 13, 5), nowOf(3)},
+		{next, pairsOf(13, -1, -1, 3, 16, 5), thenOf(resOf(0), 13, -1, 0)},
+		{next, pairsOf(13, 1, 0, 7, 14, 1, -1, 3), thenOf(resOf(0), 0, 7, 7, 13, 1, 2)},
+	} {
+		if p, ok := impl.PlanOf(c.o, c.got); !ok || !planSame(p, c.want) {
+			t.Errorf("PlanOf(%v, %v) = %v, %v, want %v", c.o, c.got, p, ok, c.want)
+		}
+	}
 }
 
 func TestWhatWasReadLastCounts(t *testing.T) {
@@ -590,12 +722,12 @@ func TestWhatWasReadLastCounts(t *testing.T) {
 			for at := range words {
 				ahead = append(ahead, impl.Pair{At: at, N: n})
 			}
-			checkReads(t, o, slices.Concat(ahead, needed), words)
+			checkReads(t, o, slices.Concat(ahead, needed))
 			between := []impl.Pair{}
 			for _, p := range needed {
 				between = append(between, impl.Pair{At: p.At, N: n}, p)
 			}
-			checkReads(t, o, between, words)
+			checkReads(t, o, between)
 		}
 	})
 	for _, c := range []struct {
