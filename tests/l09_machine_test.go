@@ -6,6 +6,7 @@ import (
 	"math"
 	"runtime"
 	"slices"
+	"strings"
 	"sync"
 	"testing"
 	"time"
@@ -1441,11 +1442,11 @@ type span struct {
 func spanOf[T any](list []T, other T, show func(T) string) span {
 	whole := list[:cap(list)]
 	text := func() string {
-		told := fmt.Sprint(len(list), ":")
+		told := []string{fmt.Sprint(len(list))}
 		for _, x := range whole {
-			told += show(x) + ";"
+			told = append(told, show(x))
 		}
-		return told
+		return strings.Join(told, ";")
 	}
 	fill := func() {
 		for i := range whole {
@@ -1583,23 +1584,28 @@ func TestStepSharesNothing(t *testing.T) {
 	}
 }
 
+// withOneList has m with one list wherever there can be one.
+func withOneList(m impl.Machine) impl.Machine {
+	return turned(m, func(m *impl.Machine) {
+		told, ops := []int{4, 5, 6}, manyOps(8)
+		for i := range m.Mem.Descs {
+			m.Mem.Descs[i].Res.List = told
+		}
+		for i := range m.Calls {
+			m.Calls[i].Res.List = told
+		}
+		for i, x := range m.Threads {
+			if len(x.Ops) <= 8 {
+				m.Threads[i].Ops = ops[:len(x.Ops)]
+			}
+		}
+	})
+}
+
 // The lists of what is answered are apart also where those given are one.
 func TestMachinesAnswerListsApart(t *testing.T) {
 	for _, m := range someMachines(t) {
-		one := turned(m, func(m *impl.Machine) {
-			told, ops := []int{4, 5, 6}, manyOps(8)
-			for i := range m.Mem.Descs {
-				m.Mem.Descs[i].Res.List = told
-			}
-			for i := range m.Calls {
-				m.Calls[i].Res.List = told
-			}
-			for i, x := range m.Threads {
-				if len(x.Ops) <= 8 {
-					m.Threads[i].Ops = ops[:len(x.Ops)]
-				}
-			}
-		})
+		one := withOneList(m)
 		for who := -1; who < len(m.Threads); who++ {
 			checkSpansApart(t, fmt.Sprint("Step ", one, who), func(look func([]span)) asked {
 				got, _ := impl.Step(one, who)
