@@ -675,16 +675,22 @@ const firstCall = "FIRST_CALL"
 
 // TestAheadOfAnyOtherCall has each function called first in a process, by many at once: what is made once must be there for whoever comes first.
 func TestAheadOfAnyOtherCall(t *testing.T) {
+	checkEachCalledFirst(t, textCalls(), callsTold())
+}
+
+// checkEachCalledFirst runs the test that asks for it again, in a process of its own for each of calls. Neither calls nor what is wanted of them may be made by a call of the program.
+func checkEachCalledFirst(t *testing.T, calls map[string]func() string, want map[string]string) {
+	t.Helper()
 	if name := os.Getenv(firstCall); name != "" {
-		checkCalledFirst(t, name)
+		checkCalledFirst(t, name, calls[name], want[name])
 		return
 	}
 	program, err := os.Executable()
 	if err != nil {
 		t.Fatal(err)
 	}
-	for name := range textCalls() {
-		run := exec.Command(program, "-test.run=^TestAheadOfAnyOtherCall$", "-test.v")
+	for name := range calls {
+		run := exec.Command(program, "-test.run=^"+t.Name()+"$", "-test.v")
 		run.Env = append(os.Environ(), firstCall+"="+name)
 		told, err := run.CombinedOutput()
 		if err != nil || !strings.Contains(string(told), "called first: "+name) {
@@ -693,8 +699,8 @@ func TestAheadOfAnyOtherCall(t *testing.T) {
 	}
 }
 
-func checkCalledFirst(t *testing.T, name string) {
-	call, want := textCalls()[name], callsTold()[name]
+func checkCalledFirst(t *testing.T, name string, call func() string, want string) {
+	t.Helper()
 	var all sync.WaitGroup
 	for range 8 {
 		all.Go(func() {
