@@ -652,9 +652,14 @@ func callsTold() map[string]string {
 	return told
 }
 
-// Nothing is kept: the same is answered whatever was asked meanwhile, also where many ask at once.
+// Nothing is kept: the same is answered whatever was asked meanwhile.
 func TestTextsAnswerTheSameAtEachCall(t *testing.T) {
-	want, calls := callsTold(), textCalls()
+	checkSameAtEachCall(t, textCalls(), callsTold())
+}
+
+// checkSameAtEachCall has each of calls asked again and again, by many at once: what is answered stays what is wanted of it, whatever was asked meanwhile.
+func checkSameAtEachCall(t *testing.T, calls map[string]func() string, want map[string]string) {
+	t.Helper()
 	var all sync.WaitGroup
 	for range 8 {
 		all.Go(func() {

@@ -6,7 +6,6 @@ import (
 	"math"
 	"slices"
 	"strings"
-	"sync"
 	"testing"
 	"unsafe"
 
@@ -528,22 +527,9 @@ func valueCallsTold() map[string]string {
 	return told
 }
 
-// Nothing is kept: the same is answered whatever was asked meanwhile, also where many ask at once.
+// Nothing is kept: the same is answered whatever was asked meanwhile.
 func TestValuesAnswerTheSameAtEachCall(t *testing.T) {
-	want, calls := valueCallsTold(), valueCalls()
-	var all sync.WaitGroup
-	for range 8 {
-		all.Go(func() {
-			for range 10 {
-				for name, call := range calls {
-					if got := call(); got != want[name] {
-						t.Errorf("%s answers\n%s\nnot\n%s", name, got, want[name])
-					}
-				}
-			}
-		})
-	}
-	all.Wait()
+	checkSameAtEachCall(t, valueCalls(), valueCallsTold())
 }
 
 func TestValuesAheadOfAnyOtherCall(t *testing.T) {
